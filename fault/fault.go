@@ -23,10 +23,15 @@ func Wrap(call string, cause error) error {
 	return &wrapped{call: call, cause: cause}
 }
 
+// Unless is an error with that code, of that part of what was given; nil, if ok.
+func Unless(ok bool, code api.Errno, where string) error {
+	if ok {
+		return nil
+	}
+	return &api.Fault{Code: code, Where: where}
+}
+
 // Size is ErrSize, unless b has so many bytes.
 func Size(name string, b []byte, want int) error {
-	if len(b) != want {
-		return &api.Fault{Code: api.ErrSize, Where: name}
-	}
-	return nil
+	return Unless(len(b) == want, api.ErrSize, name)
 }

@@ -28,6 +28,19 @@ func TestWrapKeepsItsCause(t *testing.T) {
 	}
 }
 
+func TestUnless(t *testing.T) {
+	for code := api.ErrNil; code <= api.ErrWait; code++ {
+		if e := Unless(true, code, "part"); e != nil {
+			t.Errorf("Unless all is well: %v", e)
+		}
+		e := Unless(false, code, "part")
+		var found *api.Fault
+		if !errors.As(e, &found) || found.Code != code || found.Where != "part" || !errors.Is(e, code) {
+			t.Errorf("Unless of %v is %v", code, e)
+		}
+	}
+}
+
 func TestSize(t *testing.T) {
 	for n := range 6 {
 		for want := -1; want < 6; want++ {
@@ -45,12 +58,17 @@ func TestSize(t *testing.T) {
 
 // A Fault that is written over stays what other answers have.
 func TestErrorsAreNew(t *testing.T) {
-	first, kept := Size("bytes", nil, 1), Size("bytes", nil, 1)
-	var found *api.Fault
-	if errors.As(first, &found) {
-		found.Code = api.ErrWait
-	}
-	if !errors.Is(kept, api.ErrSize) || !errors.Is(Size("bytes", nil, 1), api.ErrSize) {
-		t.Error("errors of Size share memory")
+	for name, ask := range map[string]func() error{
+		"Size":   func() error { return Size("bytes", nil, 1) },
+		"Unless": func() error { return Unless(false, api.ErrSize, "bytes") },
+	} {
+		first, kept := ask(), ask()
+		var found *api.Fault
+		if errors.As(first, &found) {
+			found.Code = api.ErrWait
+		}
+		if !errors.Is(kept, api.ErrSize) || !errors.Is(ask(), api.ErrSize) {
+			t.Errorf("errors of %s share memory", name)
+		}
 	}
 }
